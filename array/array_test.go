@@ -465,10 +465,12 @@ func TestP302Weight(t *testing.T) {
 
 // Neither call may go on for ever, though such an array is beyond what the promises cover.
 func TestP302ArrayWithinItself(t *testing.T) {
-	items := make([]api.Array, 2)
-	items[0], items[1] = ints(nil, 1), boxed([]int{2}, items...)
-	if e, n := Right(items[1]), Weight(items[1]); e != api.ErrDomain || n != api.MaxWeight+1 {
-		t.Errorf("Right = %d, and Weight = %d", e, n)
+	for count := 1; count <= 3; count++ {
+		items := slices.Repeat([]api.Array{ints(nil, 1)}, count)
+		items[count-1] = boxed([]int{count}, items...)
+		if e, n := Right(items[count-1]), Weight(items[count-1]); e != api.ErrDomain || n != api.MaxWeight+1 {
+			t.Errorf("Right = %d, and Weight = %d", e, n)
+		}
 	}
 }
 
